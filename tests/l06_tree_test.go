@@ -730,16 +730,19 @@ func TestDroppingAllBringsAllToTheRoot(t *testing.T) {
 	}
 }
 
-// treePlay does what the next numbers of a fixed row say to a tree.
-type treePlay struct {
-	row  uint64
-	tree []impl.Res
-	done [5]int
+// fixedRow is a row of numbers that look like any, and are the same at each run.
+type fixedRow uint64
+
+func (r *fixedRow) next(below int) int {
+	*r = *r*6364136223846793005 + 1442695040888963407
+	return int(*r>>33) % below
 }
 
-func (p *treePlay) next(below int) int {
-	p.row = p.row*6364136223846793005 + 1442695040888963407
-	return int(p.row>>33) % below
+// treePlay does what the next numbers of its row say to a tree.
+type treePlay struct {
+	fixedRow
+	tree []impl.Res
+	done [5]int
 }
 
 func (p *treePlay) amount() impl.Amt {
@@ -776,7 +779,7 @@ func (p *treePlay) step() (int, []impl.Res, []impl.Res, bool, bool) {
 
 func TestATreeStaysRight(t *testing.T) {
 	for start := range 20 {
-		play := treePlay{row: uint64(start), tree: rootAlone(amt(1000*start, 1000000, 50000*start))}
+		play := treePlay{fixedRow: fixedRow(start), tree: rootAlone(amt(1000*start, 1000000, 50000*start))}
 		for round := range 5000 {
 			kind, got, want, ok, wantOk := play.step()
 			checkTree(t, "a call of the play", play.tree, got, ok, want, wantOk)

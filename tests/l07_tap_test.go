@@ -703,7 +703,7 @@ func (p *treePlay) stir(trees []impl.Tree) {
 // Taps flow between trees that split and drop meanwhile, and the sum of all is kept by every tap.
 func TestTheSumOfAllTreesIsKept(t *testing.T) {
 	for start := range 15 {
-		play := treePlay{row: uint64(1000 + start)}
+		play := treePlay{fixedRow: fixedRow(1000 + start)}
 		trees := treesOf(brimful(chain()), rootAlone(amt(300*start, 500, 999000)), gapped(amt(5, 5, 5), amt(600, 70000, 0), amt(0, 0, 0)))
 		flowed, stayed := 0, 0
 		for range 3000 {
